@@ -1,0 +1,197 @@
+package samples
+
+import (
+	"slices"
+
+	"weft/api"
+)
+
+// program is a program that grows.
+type program struct {
+	*Source
+	m api.Module
+}
+
+func array(n int, of api.Type) api.Type {
+	return api.Type{Kind: api.Array, N: n, Of: []api.Type{of}}
+}
+
+func record(name string) api.Type { return api.Type{Kind: api.Record, Name: name} }
+
+// typ is some type.
+func (p *program) typ() api.Type {
+	integer, pointer := api.Type{Kind: api.Int}, api.Type{Kind: api.Ptr}
+	switch p.Next(9) {
+	case 0:
+		return integer
+	case 1, 2, 3:
+		return pointer
+	case 4, 5:
+		return record("S")
+	case 6:
+		return record("T")
+	case 7:
+		return array(3, pointer)
+	}
+	return array(2, record("S"))
+}
+
+// Program is a module that is well formed, has no externs, and a function main.
+func Program(seed int) api.Module {
+	p := &program{Source: From(seed)}
+	pointer := api.Type{Kind: api.Ptr}
+	p.m.Name = "prog"
+	p.m.Structs = []api.Struct{
+		{Name: "S", Fields: []api.Field{{Name: "a", Type: pointer}, {Name: "b", Type: api.Type{Kind: api.Int}}, {Name: "c", Type: array(2, pointer)}}},
+		{Name: "T", Fields: []api.Field{{Name: "s", Type: record("S")}, {Name: "n", Type: pointer}}},
+	}
+	for i := range 2 + p.Next(4) {
+		p.m.Globals = append(p.m.Globals, api.Global{Name: number("g", i), Static: p.Chance(3), Type: p.typ()})
+	}
+	for i := range 2 + p.Next(4) {
+		p.m.Funcs = append(p.m.Funcs, p.head(number("f", i)))
+	}
+	main := p.head("main")
+	main.Params, main.Ret, main.Static = nil, api.None, p.Chance(4)
+	p.m.Funcs = append(p.m.Funcs, main)
+	for i := range p.m.Funcs {
+		p.body(&p.m.Funcs[i])
+	}
+	return p.m
+}
+
+// head is a function without statements.
+func (p *program) head(name string) api.Func {
+	f := api.Func{Name: name, Static: p.Chance(3), Ret: p.Next(4)}
+	if f.Ret == api.Record {
+		f.Ret = api.Ptr
+	}
+	for i := range p.Next(4) {
+		kind := api.Ptr
+		if p.Chance(3) {
+			kind = api.Int
+		}
+		f.Params = append(f.Params, api.Var{Name: number("a", i), Kind: kind})
+	}
+	for i := range 4 {
+		f.Vars = append(f.Vars, api.Var{Name: number("p", i), Kind: api.Ptr})
+	}
+	for i := range 2 {
+		f.Vars = append(f.Vars, api.Var{Name: number("i", i), Kind: api.Int})
+	}
+	for i := range p.Next(3) {
+		f.Objs = append(f.Objs, api.Field{Name: number("o", i), Type: p.typ()})
+	}
+	return f
+}
+
+// variables are those of a kind that a function has.
+func variables(f *api.Func, kind int) []string {
+	var l []string
+	for _, v := range slices.Concat(f.Params, f.Vars) {
+		if v.Kind == kind {
+			l = append(l, v.Name)
+		}
+	}
+	return l
+}
+
+func (p *program) body(f *api.Func) {
+	for _, v := range []string{"p0", "p1", "p2"} {
+		f.Body = append(f.Body, api.Stmt{Op: api.Addr, Dst: v, A: p.target(f)})
+	}
+	f.Body = append(f.Body, p.stmts(f, 4+p.Next(14), 0)...)
+	if f.Ret != api.None {
+		f.Body = append(f.Body, p.returned(f))
+	}
+}
+
+// target is something that has an address.
+func (p *program) target(f *api.Func) string {
+	var l []string
+	for _, g := range p.m.Globals {
+		l = append(l, g.Name)
+	}
+	for _, o := range f.Objs {
+		l = append(l, o.Name, o.Name)
+	}
+	for _, x := range p.m.Funcs[:len(p.m.Funcs)-1] {
+		l = append(l, x.Name)
+	}
+	return p.Of(l)
+}
+
+func (p *program) returned(f *api.Func) api.Stmt {
+	s := api.Stmt{Op: api.Return}
+	if f.Ret != api.None {
+		s.A = p.Of(variables(f, f.Ret))
+	}
+	return s
+}
+
+func (p *program) stmts(f *api.Func, n, deep int) []api.Stmt {
+	var l []api.Stmt
+	for range n {
+		l = append(l, p.stmt(f, deep))
+	}
+	return l
+}
+
+// stmt is some statement, often one of pointers.
+func (p *program) stmt(f *api.Func, deep int) api.Stmt {
+	ptr := func() string { return p.Of(variables(f, api.Ptr)) }
+	num := func() string { return p.Of(variables(f, api.Int)) }
+	switch p.Next(22) {
+	case 0, 1:
+		return api.Stmt{Op: api.Copy, Dst: ptr(), A: ptr()}
+	case 2, 3, 4:
+		return api.Stmt{Op: api.Load, Dst: ptr(), A: ptr()}
+	case 5, 6, 7:
+		return api.Stmt{Op: api.Store, Dst: ptr(), A: ptr()}
+	case 8, 9:
+		return api.Stmt{Op: api.Member, Dst: ptr(), A: ptr(), Type: record("S"), B: p.Of([]string{"a", "b", "c"})}
+	case 10:
+		return api.Stmt{Op: api.Member, Dst: ptr(), A: ptr(), Type: record("T"), B: p.Of([]string{"s", "n"})}
+	case 11:
+		return api.Stmt{Op: api.Index, Dst: ptr(), A: ptr(), Type: api.Type{Kind: api.Ptr}, B: num()}
+	case 12:
+		return api.Stmt{Op: api.New, Dst: ptr(), Type: p.typ()}
+	case 13:
+		return api.Stmt{Op: api.IsNull, Dst: num(), A: ptr()}
+	case 14, 15, 16:
+		return p.call(f)
+	case 17:
+		return p.icall(f)
+	case 18:
+		if deep < 3 {
+			return api.Stmt{Op: api.If, A: num(), Then: p.stmts(f, 1+p.Next(3), deep+1), Else: p.stmts(f, p.Next(3), deep+1)}
+		}
+	case 19:
+		if deep < 3 && p.Chance(2) {
+			return api.Stmt{Op: api.While, A: num(), Then: p.stmts(f, 1+p.Next(3), deep+1)}
+		}
+	case 20:
+		return api.Stmt{Op: api.Input, Dst: num()}
+	}
+	return api.Stmt{Op: api.Addr, Dst: ptr(), A: p.target(f)}
+}
+
+// call is a call of some function but main.
+func (p *program) call(f *api.Func) api.Stmt {
+	g := p.m.Funcs[p.Next(len(p.m.Funcs)-1)]
+	s := api.Stmt{Op: api.Call, A: g.Name}
+	for _, a := range g.Params {
+		s.Args = append(s.Args, p.Of(variables(f, a.Kind)))
+	}
+	if g.Ret != api.None && !p.Chance(4) {
+		s.Dst = p.Of(variables(f, g.Ret))
+	}
+	return s
+}
+
+// icall is a call through some pointer, such as would fit some function.
+func (p *program) icall(f *api.Func) api.Stmt {
+	s := p.call(f)
+	s.Op, s.A = api.Icall, p.Of(variables(f, api.Ptr))
+	return s
+}
