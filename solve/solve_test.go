@@ -70,7 +70,7 @@ func TestEnough(t *testing.T) { // 18.2
 		{api.System{}, 1},
 		{system.Canon(api.System{Objs: []api.Obj{{Name: "x", Kinds: "i"}}, Cons: []api.Con{con(api.CAddr, "f.p", "x+0")}}), 27},
 		{system.Canon(api.System{Objs: []api.Obj{{Name: "x", Kinds: "p"}}, Cons: []api.Con{con(api.CAddr, "f.p", "x+0")}}), 27},
-		{canon(), 6 * 6 * 6},         // x+0, y+0, f(), f$0, f$1, and one
+		{canon(), 6 * 6 * 6},                             // x+0, y+0, f(), f$0, f$1, and one
 		{canon(con(api.CCopy, "f$0", "f$1")), 8 * 8 * 8}, // the Formals once as nodes, once as Formals
 		{canon(con(api.CLoad, "m.p", "m.q"), con(api.CStore, "m.p", "m.q")), 10 * 10 * 10},
 	} {
