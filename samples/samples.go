@@ -4,6 +4,7 @@ package samples
 import (
 	"slices"
 	"strconv"
+	"strings"
 
 	"weft/api"
 	"weft/names"
@@ -59,13 +60,16 @@ type parts struct {
 	nodes, sites, places, tags []string
 }
 
-func partsOf(s api.System, vars, sites []string) parts {
+// partsOf are a system's parts; kinds tells which cells are nodes, too.
+func partsOf(s api.System, vars, sites []string, kinds string) parts {
 	p := parts{nodes: slices.Concat(vars, vars, formals(s.Fns)), sites: sites}
 	for _, o := range s.Objs {
 		for k := range len(o.Kinds) {
 			cell := names.Cell(o.Name, k)
 			p.places = append(p.places, cell)
-			p.nodes = append(p.nodes, cell)
+			if strings.IndexByte(kinds, o.Kinds[k]) >= 0 {
+				p.nodes = append(p.nodes, cell)
+			}
 		}
 		for _, m := range o.Marks {
 			p.tags = append(p.tags, m.Tag)
@@ -128,7 +132,7 @@ func System(seed int) api.System {
 	for _, name := range []string{"f()", "h()", "u()"} {
 		sys.Fns = append(sys.Fns, api.Fn{Name: name, Kinds: s.Of([]string{"", "p", "p", "pp", "ip"}), Ret: s.Of([]string{"p", "p", "i", "v"})})
 	}
-	p := partsOf(sys, []string{"f.a", "f.b", "f.c", "h.a", "h.b", "u.a"}, []string{"f@1", "f@2", "h@1"})
+	p := partsOf(sys, []string{"f.a", "f.b", "f.c", "h.a", "h.b", "u.a"}, []string{"f@1", "f@2", "h@1"}, "ip")
 	for range 3 + s.Next(22) {
 		sys.Cons = append(sys.Cons, s.con(p))
 	}
@@ -172,7 +176,7 @@ func Other(seed int, sys api.System, f api.Face) api.System {
 			o.Fns = append(o.Fns, x)
 		}
 	}
-	p := partsOf(o, []string{"w.a", "w.b", "w.c"}, []string{"w@1", "w@2"})
+	p := partsOf(o, []string{"w.a", "w.b", "w.c"}, []string{"w@1", "w@2"}, "p")
 	for range 4 + s.Next(20) {
 		o.Cons = append(o.Cons, s.con(p))
 	}
