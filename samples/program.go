@@ -195,3 +195,28 @@ func (p *program) icall(f *api.Func) api.Stmt {
 	s.Op, s.A = api.Icall, p.Of(variables(f, api.Ptr))
 	return s
 }
+
+// Module is a module that is well formed, some definitions of which others have to give.
+func Module(seed int) api.Module {
+	m := Program(seed)
+	s := From(seed + 1)
+	m.Globals = slices.DeleteFunc(m.Globals, func(g api.Global) bool {
+		out := !g.Static && s.Chance(3)
+		if out {
+			m.Externs = append(m.Externs, api.Extern{Name: g.Name, Type: g.Type})
+		}
+		return out
+	})
+	m.Funcs = slices.DeleteFunc(m.Funcs, func(f api.Func) bool {
+		out := !f.Static && s.Chance(3)
+		if out {
+			x := api.Extern{Name: f.Name, Fn: true, Ret: f.Ret}
+			for _, p := range f.Params {
+				x.Params = append(x.Params, p.Kind)
+			}
+			m.Externs = append(m.Externs, x)
+		}
+		return out
+	})
+	return m
+}

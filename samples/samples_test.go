@@ -23,6 +23,9 @@ func TestMayBe(t *testing.T) {
 		if _, e := system.Union([]api.System{s, o}); e != api.OK {
 			t.Errorf("%d: %v", seed, e)
 		}
+		if name, e := scope.Check(Module(seed)); e != api.OK {
+			t.Errorf("%d: %q, %v", seed, name, e)
+		}
 		if name, e := scope.Check(Program(seed)); e != api.OK {
 			t.Errorf("%d: %q, %v", seed, name, e)
 		}
