@@ -135,7 +135,7 @@ func TestJoin(t *testing.T) { // 30.3
 	if m, e := Join(nil, "x"); e != api.OK || !reflect.DeepEqual(m, api.Module{Name: "x"}) {
 		t.Errorf("%v, %v", e, m)
 	}
-	big := "module b; " + strings.Repeat("fn f() { } ", 0)
+	big := "module b; "
 	for i := range 24 {
 		big += "global g_" + string(rune('a'+i)) + " int; "
 	}
