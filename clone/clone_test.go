@@ -141,7 +141,7 @@ func TestFollows(t *testing.T) { // 31.4, W6
 			}
 		}
 	}
-	if fewer < 50 {
+	if fewer < 30 {
 		t.Errorf("%d with fewer: nothing was asked", fewer)
 	}
 }

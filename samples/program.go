@@ -4,12 +4,15 @@ import (
 	"slices"
 
 	"weft/api"
+	"weft/shape"
 )
 
 // program is a program that grows.
 type program struct {
 	*Source
-	m api.Module
+	m       api.Module
+	careful bool              // pointers are mostly gone through as what they point at allows
+	known   map[string]string // what variables point at, as far as that is known
 }
 
 func array(n int, of api.Type) api.Type {
@@ -38,7 +41,7 @@ func (p *program) typ() api.Type {
 
 // Program is a module that is well formed, has no externs, and a function main.
 func Program(seed int) api.Module {
-	p := &program{Source: From(seed)}
+	p := &program{Source: From(seed), careful: seed%3 > 0}
 	pointer := api.Type{Kind: api.Ptr}
 	p.m.Name = "prog"
 	p.m.Structs = []api.Struct{
@@ -97,8 +100,9 @@ func variables(f *api.Func, kind int) []string {
 }
 
 func (p *program) body(f *api.Func) {
+	p.known = map[string]string{}
 	for _, v := range []string{"p0", "p1", "p2"} {
-		f.Body = append(f.Body, api.Stmt{Op: api.Addr, Dst: v, A: p.target(f)})
+		f.Body = append(f.Body, p.addr(f, v))
 	}
 	f.Body = append(f.Body, p.stmts(f, 4+p.Next(14), 0)...)
 	if f.Ret != api.None {
@@ -137,63 +141,128 @@ func (p *program) stmts(f *api.Func, n, deep int) []api.Stmt {
 	return l
 }
 
+// addr lets a variable have an address.
+func (p *program) addr(f *api.Func, v string) api.Stmt {
+	s := api.Stmt{Op: api.Addr, Dst: v, A: p.target(f)}
+	p.known[v] = "function " + s.A
+	for _, g := range p.m.Globals {
+		if g.Name == s.A {
+			p.known[v] = shape.Text(g.Type)
+		}
+	}
+	for _, o := range f.Objs {
+		if o.Name == s.A {
+			p.known[v] = shape.Text(o.Type)
+		}
+	}
+	return s
+}
+
+// pointing is a variable that points at something, if care is taken; empty without one.
+func (p *program) pointing(f *api.Func, at ...string) string {
+	l := variables(f, api.Ptr)
+	if p.careful && !p.Chance(25) {
+		l = slices.DeleteFunc(l, func(v string) bool { return !slices.Contains(at, p.known[v]) })
+	}
+	return p.Of(l)
+}
+
+// through is a statement that goes through a pointer, and what comes of it points at what is told.
+func (p *program) through(f *api.Func, s api.Stmt, to string, at ...string) api.Stmt {
+	dst := p.Of(variables(f, api.Ptr))
+	a := p.pointing(f, at...)
+	if a == "" {
+		return p.addr(f, dst)
+	}
+	s.Dst, s.A = dst, a
+	if s.Op == api.Store {
+		s.Dst, s.A = a, dst
+	} else {
+		p.known[dst] = to
+	}
+	return s
+}
+
+// block is statements that are done perhaps, or again and again: what is known ahead of them is not known in them, nor behind.
+func (p *program) block(f *api.Func, n, deep int) []api.Stmt {
+	p.known = map[string]string{}
+	l := p.stmts(f, n, deep)
+	p.known = map[string]string{}
+	return l
+}
+
 // stmt is some statement, often one of pointers.
 func (p *program) stmt(f *api.Func, deep int) api.Stmt {
 	ptr := func() string { return p.Of(variables(f, api.Ptr)) }
 	num := func() string { return p.Of(variables(f, api.Int)) }
 	switch p.Next(22) {
 	case 0, 1:
-		return api.Stmt{Op: api.Copy, Dst: ptr(), A: ptr()}
+		s := api.Stmt{Op: api.Copy, Dst: ptr(), A: ptr()}
+		p.known[s.Dst] = p.known[s.A]
+		return s
 	case 2, 3, 4:
-		return api.Stmt{Op: api.Load, Dst: ptr(), A: ptr()}
+		return p.through(f, api.Stmt{Op: api.Load}, "", "ptr", "[2]ptr", "[3]ptr", "struct S")
 	case 5, 6, 7:
-		return api.Stmt{Op: api.Store, Dst: ptr(), A: ptr()}
+		return p.through(f, api.Stmt{Op: api.Store}, "", "ptr", "[2]ptr", "[3]ptr", "struct S")
 	case 8, 9:
-		return api.Stmt{Op: api.Member, Dst: ptr(), A: ptr(), Type: record("S"), B: p.Of([]string{"a", "b", "c"})}
+		field := p.Next(3)
+		return p.through(f, api.Stmt{Op: api.Member, Type: record("S"), B: "abc"[field : field+1]}, []string{"ptr", "int", "[2]ptr"}[field], "struct S", "struct T", "[2]struct S")
 	case 10:
-		return api.Stmt{Op: api.Member, Dst: ptr(), A: ptr(), Type: record("T"), B: p.Of([]string{"s", "n"})}
+		field := p.Next(2)
+		return p.through(f, api.Stmt{Op: api.Member, Type: record("T"), B: "sn"[field : field+1]}, []string{"struct S", "ptr"}[field], "struct T")
 	case 11:
-		return api.Stmt{Op: api.Index, Dst: ptr(), A: ptr(), Type: api.Type{Kind: api.Ptr}, B: num()}
+		return p.through(f, api.Stmt{Op: api.Index, Type: api.Type{Kind: api.Ptr}, B: num()}, "ptr", "[2]ptr", "[3]ptr")
 	case 12:
-		return api.Stmt{Op: api.New, Dst: ptr(), Type: p.typ()}
+		s := api.Stmt{Op: api.New, Dst: ptr(), Type: p.typ()}
+		p.known[s.Dst] = shape.Text(s.Type)
+		return s
 	case 13:
 		return api.Stmt{Op: api.IsNull, Dst: num(), A: ptr()}
 	case 14, 15, 16:
 		return p.call(f)
-	case 17:
+	case 17, 18:
 		return p.icall(f)
-	case 18:
-		if deep < 3 {
-			return api.Stmt{Op: api.If, A: num(), Then: p.stmts(f, 1+p.Next(3), deep+1), Else: p.stmts(f, p.Next(3), deep+1)}
-		}
 	case 19:
-		if deep < 3 && p.Chance(2) {
-			return api.Stmt{Op: api.While, A: num(), Then: p.stmts(f, 1+p.Next(3), deep+1)}
+		if deep < 3 {
+			return api.Stmt{Op: api.If, A: num(), Then: p.block(f, 1+p.Next(3), deep+1), Else: p.block(f, p.Next(3), deep+1)}
 		}
 	case 20:
+		if deep < 3 && p.Chance(2) {
+			return api.Stmt{Op: api.While, A: num(), Then: p.block(f, 1+p.Next(3), deep+1)}
+		}
+	case 21:
 		return api.Stmt{Op: api.Input, Dst: num()}
 	}
-	return api.Stmt{Op: api.Addr, Dst: ptr(), A: p.target(f)}
+	return p.addr(f, ptr())
 }
 
 // call is a call of some function but main.
 func (p *program) call(f *api.Func) api.Stmt {
-	g := p.m.Funcs[p.Next(len(p.m.Funcs)-1)]
+	return p.callOf(f, p.m.Funcs[p.Next(len(p.m.Funcs)-1)])
+}
+
+func (p *program) callOf(f *api.Func, g api.Func) api.Stmt {
 	s := api.Stmt{Op: api.Call, A: g.Name}
 	for _, a := range g.Params {
 		s.Args = append(s.Args, p.Of(variables(f, a.Kind)))
 	}
 	if g.Ret != api.None && !p.Chance(4) {
 		s.Dst = p.Of(variables(f, g.Ret))
+		delete(p.known, s.Dst)
 	}
 	return s
 }
 
 // icall is a call through some pointer, such as would fit some function.
 func (p *program) icall(f *api.Func) api.Stmt {
-	s := p.call(f)
-	s.Op, s.A = api.Icall, p.Of(variables(f, api.Ptr))
-	return s
+	for _, g := range p.m.Funcs {
+		if v := p.pointing(f, "function "+g.Name); v != "" && !p.Chance(3) {
+			s := p.callOf(f, g)
+			s.Op, s.A = api.Icall, v
+			return s
+		}
+	}
+	return p.addr(f, p.Of(variables(f, api.Ptr)))
 }
 
 // Module is a module that is well formed, some definitions of which others have to give.
