@@ -7,12 +7,15 @@ import (
 	"weft/shape"
 )
 
+// thing is what a variable points at: a type in writing, or a function.
+type thing struct{ text string }
+
 // program is a program that grows.
 type program struct {
 	*Source
 	m       api.Module
-	careful bool              // pointers are mostly gone through as what they point at allows
-	known   map[string]string // what variables point at, as far as that is known
+	careful bool             // pointers are mostly gone through as what they point at allows
+	known   map[string]thing // what variables point at, as far as that is known
 }
 
 func array(n int, of api.Type) api.Type {
@@ -100,7 +103,7 @@ func variables(f *api.Func, kind int) []string {
 }
 
 func (p *program) body(f *api.Func) {
-	p.known = map[string]string{}
+	p.known = map[string]thing{}
 	for _, v := range []string{"p0", "p1", "p2"} {
 		f.Body = append(f.Body, p.addr(f, v))
 	}
@@ -144,15 +147,15 @@ func (p *program) stmts(f *api.Func, n, deep int) []api.Stmt {
 // addr lets a variable have an address.
 func (p *program) addr(f *api.Func, v string) api.Stmt {
 	s := api.Stmt{Op: api.Addr, Dst: v, A: p.target(f)}
-	p.known[v] = "function " + s.A
+	p.known[v] = thing{"function " + s.A}
 	for _, g := range p.m.Globals {
 		if g.Name == s.A {
-			p.known[v] = shape.Text(g.Type)
+			p.known[v] = thing{shape.Text(g.Type)}
 		}
 	}
 	for _, o := range f.Objs {
 		if o.Name == s.A {
-			p.known[v] = shape.Text(o.Type)
+			p.known[v] = thing{shape.Text(o.Type)}
 		}
 	}
 	return s
@@ -162,7 +165,7 @@ func (p *program) addr(f *api.Func, v string) api.Stmt {
 func (p *program) pointing(f *api.Func, at ...string) string {
 	l := variables(f, api.Ptr)
 	if p.careful && !p.Chance(25) {
-		l = slices.DeleteFunc(l, func(v string) bool { return !slices.Contains(at, p.known[v]) })
+		l = slices.DeleteFunc(l, func(v string) bool { return !slices.Contains(at, p.known[v].text) })
 	}
 	return p.Of(l)
 }
@@ -178,16 +181,16 @@ func (p *program) through(f *api.Func, s api.Stmt, to string, at ...string) api.
 	if s.Op == api.Store {
 		s.Dst, s.A = a, dst
 	} else {
-		p.known[dst] = to
+		p.known[dst] = thing{to}
 	}
 	return s
 }
 
 // block is statements that are done perhaps, or again and again: what is known ahead of them is not known in them, nor behind.
 func (p *program) block(f *api.Func, n, deep int) []api.Stmt {
-	p.known = map[string]string{}
+	p.known = map[string]thing{}
 	l := p.stmts(f, n, deep)
-	p.known = map[string]string{}
+	p.known = map[string]thing{}
 	return l
 }
 
@@ -214,7 +217,7 @@ func (p *program) stmt(f *api.Func, deep int) api.Stmt {
 		return p.through(f, api.Stmt{Op: api.Index, Type: api.Type{Kind: api.Ptr}, B: num()}, "ptr", "[2]ptr", "[3]ptr")
 	case 12:
 		s := api.Stmt{Op: api.New, Dst: ptr(), Type: p.typ()}
-		p.known[s.Dst] = shape.Text(s.Type)
+		p.known[s.Dst] = thing{shape.Text(s.Type)}
 		return s
 	case 13:
 		return api.Stmt{Op: api.IsNull, Dst: num(), A: ptr()}
