@@ -153,3 +153,94 @@ func TestLong(t *testing.T) { // P1
 		}
 	}
 }
+
+// slow does what the chapter's words say, step by step.
+func slow(s api.System, hide []string) (api.System, map[string]string) {
+	hidden := map[string]bool{}
+	for _, h := range hide {
+		hidden[h] = !strings.Contains(h, "@")
+	}
+	in := map[string]string{}
+	swap := func(from, to string) {
+		for i, c := range s.Cons {
+			s.Cons[i] = swapped(c, from, to)
+		}
+		s.Cons = slices.DeleteFunc(s.Cons, func(c api.Con) bool { return c.Op == api.CCopy && c.A == c.B })
+		s = system.Canon(s)
+		for n, x := range in {
+			if x == from {
+				in[n] = to
+			}
+		}
+		in[from] = to
+	}
+	s = system.Canon(s)
+	s.Cons = slices.DeleteFunc(s.Cons, func(c api.Con) bool { return c.Op == api.CCopy && c.A == c.B })
+	leads := map[string]map[string]bool{} // over one CCopy or more
+	for range 8 {
+		for _, c := range s.Cons {
+			if c.Op != api.CCopy {
+				continue
+			}
+			if leads[c.B] == nil {
+				leads[c.B] = map[string]bool{}
+			}
+			leads[c.B][c.A] = true
+			for to := range leads[c.A] {
+				leads[c.B][to] = true
+			}
+		}
+	}
+	nodes := system.Nodes(s)
+	for _, least := range nodes { // rising: the least of each part comes first
+		part := slices.DeleteFunc(slices.Clone(nodes), func(n string) bool { return n != least && !(leads[n][least] && leads[least][n]) })
+		if part[0] != least {
+			continue
+		}
+		to := least
+		if i := slices.IndexFunc(part, func(n string) bool { return !hidden[n] }); i >= 0 {
+			to = part[i]
+		}
+		for _, n := range part {
+			if hidden[n] && n != to {
+				swap(n, to)
+			}
+		}
+	}
+	for i := 0; i < len(nodes); i++ {
+		var feeds []api.Con
+		for _, c := range s.Cons {
+			if slices.Contains(fed(c), nodes[i]) {
+				feeds = append(feeds, c)
+			}
+		}
+		if hidden[nodes[i]] && len(feeds) == 1 && feeds[0].Op == api.CCopy {
+			swap(nodes[i], feeds[0].B)
+			i = -1
+		}
+	}
+	return system.Canon(s), in
+}
+
+func TestSlow(t *testing.T) { // 21.1
+	count := 0
+	for seed := range 600 {
+		s := samples.System(seed)
+		src := samples.From(seed)
+		hide := slices.DeleteFunc(system.Nodes(s), func(string) bool { return src.Chance(4) })
+		got, swaps, e := System(s, hide)
+		want, in := slow(s, hide)
+		if e != api.OK || !system.Same(got, want) || len(swaps) != len(in) {
+			t.Errorf("%d: %v\n%v\n%v", seed, e, got.Cons, want.Cons)
+		}
+		for _, x := range swaps {
+			if in[x.From] != x.To {
+				t.Errorf("%d: %v, not %s", seed, x, in[x.From])
+			}
+		}
+		count += len(swaps)
+	}
+	if count < 300 {
+		t.Errorf("%d swaps: nothing was asked", count)
+	}
+}

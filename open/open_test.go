@@ -165,3 +165,105 @@ func TestOthers(t *testing.T) { // 19.3
 		t.Errorf("%d open, %d not: nothing was asked", opened, closed)
 	}
 }
+
+// slow is what a system may have to do with others, by the words of the chapter.
+func slow(s api.System, f api.Face) (open, out []string) {
+	facts, _ := least.Facts(s)
+	isOpen, isOut := map[string]bool{}, map[string]bool{}
+	grown := true
+	put := func(m map[string]bool, so bool, l ...string) {
+		for _, x := range l {
+			if so && x != "" && !m[x] {
+				m[x], grown = true, true
+			}
+		}
+	}
+	pointers := map[string]bool{}
+	for _, o := range s.Objs {
+		for k := range len(o.Kinds) {
+			pointers[names.Cell(o.Name, k)] = o.Kinds[k] == 'p'
+		}
+	}
+	cells := func(node string) []string {
+		return slices.DeleteFunc(least.Of(facts, node), func(p string) bool { return !pointers[p] })
+	}
+	formal := func(fn api.Fn, n int) string {
+		return strings.TrimSuffix(fn.Name, "()") + "$" + string(rune('0'+n))
+	}
+	for grown {
+		grown = false
+		put(isOut, true, f.Fns...)
+		for _, o := range s.Objs {
+			for k := range len(o.Kinds) {
+				put(isOut, slices.Contains(f.Objs, o.Name), names.Cell(o.Name, k))
+				for j := range len(o.Kinds) {
+					put(isOut, isOut[names.Cell(o.Name, k)], names.Cell(o.Name, j))
+				}
+				if c := names.Cell(o.Name, k); pointers[c] && isOut[c] {
+					put(isOpen, true, c)
+					put(isOut, true, least.Of(facts, c)...)
+				}
+			}
+		}
+		for _, fn := range s.Fns {
+			for n := range len(fn.Kinds) + 1 {
+				if isOut[fn.Name] {
+					put(isOpen, true, formal(fn, n))
+					put(isOut, true, least.Of(facts, formal(fn, n))...)
+				}
+			}
+		}
+		for _, c := range s.Cons {
+			switch c.Op {
+			case api.CCopy, api.CField:
+				put(isOpen, isOpen[c.B], c.A)
+			case api.CLoad:
+				put(isOpen, isOpen[c.B] || slices.ContainsFunc(cells(c.B), func(p string) bool { return isOpen[p] }), c.A)
+			case api.CStore:
+				put(isOut, isOpen[c.A], least.Of(facts, c.B)...)
+				put(isOpen, isOpen[c.B], cells(c.A)...)
+			case api.CCall:
+				put(isOpen, isOpen[c.B], c.A, c.Args[0])
+				for i, a := range c.Args {
+					put(isOut, isOpen[c.B] && i > 0 && a != "", least.Of(facts, a)...)
+				}
+				kinds, ret, _ := strings.Cut(c.Tag, ">")
+				for _, fn := range s.Fns {
+					if fn.Kinds != kinds || ret != "" && ret != fn.Ret || !slices.Contains(least.Of(facts, c.B), fn.Name) {
+						continue
+					}
+					put(isOpen, isOpen[formal(fn, 0)], c.Args[0])
+					for i, a := range c.Args[1:] {
+						put(isOpen, a != "" && isOpen[a], formal(fn, i+1))
+					}
+				}
+			}
+		}
+	}
+	for x := range isOpen {
+		open = append(open, x)
+	}
+	for x := range isOut {
+		out = append(out, x)
+	}
+	slices.Sort(open)
+	slices.Sort(out)
+	return open, out
+}
+
+func TestSlow(t *testing.T) { // 19.2
+	for seed := range 600 {
+		s := samples.System(seed)
+		f := samples.Face(seed, s)
+		if seed%3 == 0 {
+			m := samples.Module(seed)
+			s, _ = lower.Module(m)
+			f = Face(m)
+		}
+		x, e := Of(s, f)
+		open, out := slow(s, f)
+		if e != api.OK || !slices.Equal(x.Open, open) || !slices.Equal(x.Out, out) {
+			t.Errorf("%d: %v, open %v, not %v, out %v, not %v", seed, e, x.Open, open, x.Out, out)
+		}
+	}
+}
