@@ -47,8 +47,10 @@ func TestSystem(t *testing.T) { // 22.1
 		{append(cons("q &x", "r q"), con(api.CLoad, "m.z", "m.q")), "m.q", append(cons("q &x", "r q"), con(api.CLoad, "m.z", "m.q")), ""}, {append(cons("r q"), con(api.CLoad, "m.q", "m.z")), "m.q", append(cons("r q"), con(api.CLoad, "m.q", "m.z")), ""}, {append(cons("q &x"), con(api.CStore, "m.q", "m.z")), "m.q", append(cons("q &x"), con(api.CStore, "m.q", "m.z")), ""}, {append(cons("q &x"), con(api.CStore, "m.z", "m.q")), "m.q", append(cons("q &x"), con(api.CStore, "m.z", "m.q")), ""},
 		{append(cons("q &x"), api.Con{Op: api.CCall, A: "m@1", B: "m.z", Tag: "p>", Args: []string{"", "m.q"}}), "m.q", append(cons("q &x"), api.Con{Op: api.CCall, A: "m@1", B: "m.z", Tag: "p>", Args: []string{"", "m.q"}}), ""},
 		{[]api.Con{con(api.CCopy, "m@1", "m.p"), con(api.CCopy, "m.r", "m@1")}, "m@1", []api.Con{con(api.CCopy, "m@1", "m.p"), con(api.CCopy, "m.r", "m@1")}, ""},
-		// a place is no node that is named
-		{[]api.Con{con(api.CCopy, "g+0", "m.p"), con(api.CCopy, "m.r", "g+0"), con(api.CAddr, "m.s", "g+0")}, "g+0", []api.Con{con(api.CCopy, "m.r", "m.p"), con(api.CAddr, "m.s", "g+0")}, "g+0"},
+		// a CAddr names a cell as B, as long as it is there
+		{[]api.Con{con(api.CCopy, "g+0", "m.p"), con(api.CCopy, "m.r", "g+0"), con(api.CAddr, "m.s", "g+0")}, "g+0", []api.Con{con(api.CCopy, "g+0", "m.p"), con(api.CCopy, "m.r", "g+0"), con(api.CAddr, "m.s", "g+0")}, ""},
+		{[]api.Con{con(api.CCopy, "g+0", "m.p"), con(api.CCopy, "m.r", "g+0"), con(api.CAddr, "m.s", "g+0")}, "g+0 m.s", []api.Con{con(api.CCopy, "m.r", "m.p")}, "g+0 m.s"},
+		{[]api.Con{con(api.CAddr, "g+0", "g+0"), con(api.CCopy, "m.r", "g+0")}, "g+0", []api.Con{con(api.CAddr, "g+0", "g+0"), con(api.CCopy, "m.r", "g+0")}, ""},
 		// again and again, the least first: a makes of two outs of b one, and of c and its like nothing new
 		{cons("a p", "b a", "c b", "d c", "e d"), "m.b m.c m.d m.a", cons("e p"), "m.a m.b m.c m.d"},
 		{cons("b o", "b p", "x b", "y b", "z b", "z y"), "m.b m.y m.x", cons("z o", "z p"), "m.b m.x m.y"},
@@ -74,8 +76,8 @@ func slow(s api.System, hide []string) (api.System, []string) {
 		var ins, outs, rest []api.Con
 		only := true
 		for _, c := range s.Cons {
-			in, out := c.A == x, c.B == x && c.Op != api.CAddr
-			only = only && (!in && !out && !slices.Contains(c.Args, x) || c.Op == api.CCopy && in != out || c.Op == api.CAddr)
+			in, out := c.A == x, c.B == x
+			only = only && (!in && !out && !slices.Contains(c.Args, x) || c.Op == api.CCopy && in != out || c.Op == api.CAddr && !out)
 			switch {
 			case in:
 				ins = append(ins, c)
@@ -108,12 +110,17 @@ func TestSlow(t *testing.T) { // 22.1
 	count := 0
 	for seed := range 600 {
 		src := samples.From(seed)
-		var l []string
+		var l []api.Con
+		nodes := []string{"m.a", "m.b", "m.c", "m.d", "g+0", "h+0"}
 		for range 4 + src.Next(14) {
-			l = append(l, src.Of([]string{"a", "b", "c", "d", "e", "f"})+" "+src.Of([]string{"a", "b", "c", "d", "e", "f", "&x", "&y"}))
+			if src.Chance(4) {
+				l = append(l, con(api.CAddr, src.Of(nodes), src.Of([]string{"g+0", "h+0", "k+0"})))
+			} else {
+				l = append(l, con(api.CCopy, src.Of(nodes), src.Of(nodes)))
+			}
 		}
-		s := canon(cons(l...)...)
-		hide := []string{"m.e", "m.b", "m.a", "m.d"}[src.Next(3):]
+		s := canon(l...)
+		hide := []string{"m.d", "m.b", "g+0", "m.a", "h+0"}[src.Next(3):]
 		got, folded, _ := System(s, hide)
 		want, wanted := slow(s, slices.Clone(hide))
 		if !system.Same(got, want) || !slices.Equal(folded, wanted) {
