@@ -242,7 +242,7 @@ func (c checker) call(s api.Stmt) []func() api.Errno {
 		l = append(l, c.variable(s.Args[i], kinds[i]))
 	}
 	if s.Dst != "" {
-		l = append(l, need(ret != api.None, api.ErrType), c.variable(s.Dst, ret))
+		l = append(l, c.variable(s.Dst, ret)) // a variable that is there is never of the kind None
 	}
 	return l
 }

@@ -171,12 +171,12 @@ func TestCheckStmts(t *testing.T) { // 13.2
 		"i = plus i j;": api.OK, "p = plus i j;": api.ErrType, "i = less p j;": api.ErrType, "i = times i p;": api.ErrType, "i = minus p x;": api.ErrType, "i = minus x p;": api.ErrNone,
 		"i = isnull p;": api.OK, "p = isnull p;": api.ErrType, "i = isnull i;": api.ErrType, "i = same p q;": api.OK, "i = same p j;": api.ErrType, "i = same j x;": api.ErrType, "p = same p q;": api.ErrType,
 		"call en();": api.OK, "call ef(i, p);": api.OK, "p = call ef(i, p);": api.OK, "i = call two(p, i);": api.OK, "call x();": api.ErrNone, "call g();": api.ErrNone, "call eg();": api.ErrNone, "call p();": api.ErrNone, "call en(i);": api.ErrArity, "call two(p);": api.ErrArity, "call two(x);": api.ErrArity, "call two(i, p);": api.ErrType, "call two(p, x);": api.ErrNone,
-		"i = call en();": api.ErrType, "x = call en();": api.ErrType, "i = call ef(i, p);": api.ErrType, "x = call ef(i, p);": api.ErrNone, "x = call ef(p, p);": api.ErrType, "p = call f();": api.ErrArity, "p = call f(p);": api.OK,
+		"i = call en();": api.ErrType, "p = call en();": api.ErrType, "x = call en();": api.ErrNone, "o = call en();": api.ErrNone, "i = call void();": api.ErrType, "x = call void();": api.ErrNone, "x = call void(i);": api.ErrArity, "x = call one(p);": api.ErrType, "x = call one(i);": api.ErrNone, "p = call one(i);": api.ErrType, "i = call ef(i, p);": api.ErrType, "x = call ef(i, p);": api.ErrNone, "x = call ef(p, p);": api.ErrType, "p = call f();": api.ErrArity, "p = call f(p);": api.OK,
 		"icall p();": api.OK, "icall p(i, j, p, q, i, j);": api.OK, "icall p(i, j, p, q, i, j, i);": api.ErrArity, "icall i(i, j, p, q, i, j, i);": api.ErrType, "icall x();": api.ErrNone, "icall two();": api.ErrNone, "icall p(x);": api.ErrNone, "i = icall p();": api.OK, "p = icall p();": api.OK, "x = icall p();": api.ErrNone,
 		"if i { }": api.OK, "while i { }": api.OK, "if p { }": api.ErrType, "while p { }": api.ErrType, "if x { y = 1; }": api.ErrNone, "if i { p = 1; }": api.ErrType, "if i { } else { p = 1; }": api.ErrType, "while i { while j { p = 1; } }": api.ErrType,
 		"return p;": api.OK, "return i;": api.ErrType, "return x;": api.ErrNone, "return;": api.ErrNone,
 	} {
-		m := read(t, defs+"fn f(p ptr) ptr { var q ptr; var i int; var j int; obj o struct S; "+s+" }")
+		m := read(t, defs+"fn f(p ptr) ptr { var q ptr; var i int; var j int; obj o struct S; "+s+" } fn void() { } fn one(i int) { }")
 		name, got := Check(m)
 		if got != e || name != map[bool]string{true: "", false: "f"}[e == api.OK] {
 			t.Errorf("%s: %q, %v, not %v", s, name, got, e)
