@@ -232,6 +232,21 @@ func TestModules(t *testing.T) { // 35.1: a program in modules; choices and inpu
 	}
 }
 
+func TestPassedOver(t *testing.T) { // 35, P1: statements that no If, and no While, has within are neither numbered nor done
+	m := read(t, "module a; fn main() { var p ptr; var q ptr; var i int; i = 1; while i { q = copy p; i = 0; } p = new int; }")
+	body := m.Funcs[0].Body
+	round := []api.Stmt{{Op: api.New, Dst: "q", Type: api.Type{Kind: api.Int}}, {Op: api.Copy, Dst: "p", A: "q"}}
+	round[1].Then, round[1].Else = round, round
+	body[0].Then, body[1].Else, body[1].Then[0].Then, body[1].Then[1].Else = round, round, round, body
+	x, e := New([]api.Module{m}, nil, nil)
+	if e != api.OK {
+		t.Fatal(e)
+	}
+	if n, e := x.Run(100); n != 6 || e != api.ErrEnd || seen(x.Seen()) != "main.p: main#5+0" {
+		t.Errorf("%d, %v, %s", n, e, seen(x.Seen()))
+	}
+}
+
 func TestNil(t *testing.T) { // 35.2, P1
 	for _, m := range []*Machine{nil, {}} {
 		if e := m.Step(); e != api.ErrEnd {

@@ -116,6 +116,27 @@ func TestEachCopies(t *testing.T) {
 	}
 }
 
+func TestEachCopiesDeep(t *testing.T) { // 13.1: however deep a list lies, it is handed out anew
+	deep, x := api.Stmt{Op: api.Return, Args: []string{"a"}}, api.Type{Kind: api.Int, Of: []api.Type{{Kind: api.Ptr}}}
+	for range 40 {
+		deep, x = api.Stmt{Op: api.Copy, Then: []api.Stmt{deep}}, api.Type{Of: []api.Type{x}}
+	}
+	deep.Type = x
+	for _, s := range Each([]api.Stmt{deep}) {
+		c := s.Type
+		for range 40 {
+			s, c, deep, x = s.Then[0], c.Of[0], deep.Then[0], x.Of[0]
+		}
+		if s.Op != api.Return || s.Args[0] != "a" || c.Kind != api.Int || c.Of[0].Kind != api.Ptr {
+			t.Errorf("%v, %v", s, c)
+		}
+		s.Args[0], c.Of[0].Kind = "?", 9
+	}
+	if deep.Args[0] != "a" || x.Of[0].Kind != api.Ptr {
+		t.Error("what is handed out is shared")
+	}
+}
+
 func TestCheckDefs(t *testing.T) { // 13.2
 	for _, c := range []struct {
 		s, name string

@@ -174,6 +174,113 @@ func sorted(m api.Module, name string) api.Module {
 	return m
 }
 
+// whole tells whether all of what a part has, but for what it wants, is of a program as it stands there.
+func whole(m, part api.Module) bool {
+	for _, g := range part.Globals {
+		sort, i := scope.Find(m, g.Name)
+		if sort != scope.Global || !reflect.DeepEqual(g, m.Globals[i]) {
+			return false
+		}
+	}
+	for _, f := range part.Funcs {
+		sort, i := scope.Find(m, f.Name)
+		if sort != scope.Func || !reflect.DeepEqual(f, m.Funcs[i]) {
+			return false
+		}
+	}
+	for _, x := range part.Externs {
+		sort, i := scope.Find(m, x.Name)
+		if sort == scope.Global && !reflect.DeepEqual(x, api.Extern{Name: x.Name, Type: m.Globals[i].Type}) {
+			return false
+		}
+	}
+	return reflect.DeepEqual(part.Structs, m.Structs)
+}
+
+// spoil changes all that a module hands out.
+func spoil(m api.Module) {
+	var types func(l []api.Type)
+	types = func(l []api.Type) {
+		for i := range l {
+			if l[i].Kind != -9 { // one of a list that has itself within may be changed already
+				l[i].Kind = -9
+				types(l[i].Of)
+			}
+		}
+	}
+	var stmts func(l []api.Stmt)
+	stmts = func(l []api.Stmt) {
+		for i := range l {
+			if x := &l[i]; x.Op != -9 {
+				x.Op = -9
+				types(x.Type.Of)
+				clear(x.Args)
+				stmts(x.Then)
+				stmts(x.Else)
+			}
+		}
+	}
+	for _, s := range m.Structs {
+		for _, f := range s.Fields {
+			types(f.Type.Of)
+		}
+		clear(s.Fields)
+	}
+	for _, x := range m.Externs {
+		types(x.Type.Of)
+		clear(x.Params)
+	}
+	for _, g := range m.Globals {
+		types(g.Type.Of)
+	}
+	for _, f := range m.Funcs {
+		for _, o := range f.Objs {
+			types(o.Type.Of)
+		}
+		clear(f.Objs)
+		clear(f.Params)
+		clear(f.Vars)
+		stmts(f.Body)
+	}
+}
+
+func TestAsTheyWere(t *testing.T) { // 30.2, 30.3, 30.4: what a kind, or an Op, does not need is handed out, too, and anew
+	for seed := range 200 {
+		m := samples.Cluttered(seed, samples.Program)
+		src := samples.From(seed)
+		l, e := Modules(m, src.Numbers(12), 1+src.Next(4))
+		if e != api.OK {
+			t.Fatalf("%d: %v", seed, e)
+		}
+		for _, x := range l {
+			if !whole(m, x) {
+				t.Errorf("%d: %s is not as it was: %v", seed, x.Name, x)
+			}
+		}
+		joined, e := Join(l, "m")
+		if e != api.OK {
+			t.Fatalf("%d: %v", seed, e)
+		}
+		for _, x := range l {
+			spoil(x)
+		}
+		want := samples.Cluttered(seed, samples.Program)
+		if !reflect.DeepEqual(m, want) || !reflect.DeepEqual(sorted(joined, "m"), sorted(samples.Cluttered(seed, samples.Program), "m")) {
+			t.Errorf("%d: joined it is not the program, or it is shared", seed)
+		}
+		spoil(joined)
+		one, e := Join([]api.Module{m}, "m")
+		m.Name = "m"
+		if e != api.OK || !reflect.DeepEqual(one, m) {
+			t.Errorf("%d: as one: %v", seed, e)
+		}
+		spoil(one)
+		if want.Name = "m"; !reflect.DeepEqual(m, want) {
+			t.Errorf("%d: what is handed out is the program's own", seed)
+		}
+	}
+}
+
 func TestFollows(t *testing.T) { // 30.4, W1
 	asked := 0
 	for seed := range 200 {
